@@ -6,6 +6,7 @@ import (
 	"augur/api"
 	"augur/frac"
 	"augur/infer"
+	"augur/known"
 	"augur/net"
 	"augur/table"
 )
@@ -18,7 +19,7 @@ type sight struct {
 
 // see is the sight of x's variable, y and z, or what is to be said of them first.
 func see(n api.Net, x api.Fact, y int, z []int) (sight, api.Errno) {
-	if e := factsMayBe(n, []api.Fact{x}); e != api.OK {
+	if e := known.Check(n, []api.Fact{x}); e != api.OK {
 		return sight{}, e
 	}
 	if e := setsMayBe(n.Parents, []int{x.Var}, []int{y}, z); e != api.OK {
