@@ -4,6 +4,7 @@ import (
 	"slices"
 
 	"augur/api"
+	"augur/draw"
 	"augur/frac"
 )
 
@@ -121,7 +122,7 @@ func checkDraw(d api.Draw) api.Errno {
 			return api.ErrSum
 		}
 	case api.Range:
-		if d.Hi < d.Lo || outcomesOf(d) > maxRange {
+		if d.Hi < d.Lo || draw.Outcomes(d) > maxRange {
 			return api.ErrLimit
 		}
 	case api.Pick:

@@ -2,6 +2,7 @@ package script
 
 import (
 	"augur/api"
+	"augur/draw"
 )
 
 // load is how many ways and steps something has, when all is written out. More than are allowed are told as one more: so no number grows too great.
@@ -42,7 +43,7 @@ func (l loads) block(steps []api.Stmt) load {
 }
 
 func (l loads) step(s api.Stmt) load {
-	sum := load{ways: outcomesOf(s.Draw), work: 1}.and(l.expr(s.Expr))
+	sum := load{ways: draw.Outcomes(s.Draw), work: 1}.and(l.expr(s.Expr))
 	body := l.block(s.Body)
 	times := 1
 	if s.Kind == api.Repeat {
@@ -64,17 +65,4 @@ func (l loads) expr(e api.Expr) load {
 		sum = sum.and(l.each[i])
 	}
 	return sum
-}
-
-// outcomesOf is how many outcomes a draw has; where there is none, all goes one way.
-func outcomesOf(d api.Draw) int {
-	switch d.Kind {
-	case api.Flip:
-		return 2
-	case api.Range:
-		return d.Hi - d.Lo + 1
-	case api.Pick:
-		return len(d.Values)
-	}
-	return 1
 }
