@@ -3,8 +3,8 @@ package mean
 import (
 	"augur/api"
 	"augur/draw"
-	"augur/frac"
 	"augur/nat"
+	"augur/weigh"
 )
 
 // come is a draw that a way comes to, and the outcome that it has there.
@@ -38,38 +38,14 @@ func (t *trail) turn() bool {
 	return false
 }
 
-// share is a draw's chances in whole numbers: so many parts in all, and those of each outcome.
-type share struct {
-	whole api.Nat
-	parts []api.Nat
-}
-
-func shareOf(d api.Draw) share {
-	chances := draw.Chances(d)
-	s := share{whole: nat.Of(1)}
-	for _, c := range chances {
-		s.whole = nat.Mul(s.whole, through(c.Den, nat.Gcd(s.whole, c.Den)))
-	}
-	for _, c := range chances {
-		s.parts = append(s.parts, nat.Mul(c.Num, through(s.whole, c.Den)))
-	}
-	return s
-}
-
-// through is a quotient without a rest.
-func through(a, b api.Nat) api.Nat {
-	q, _, _ := nat.Div(a, b)
-	return q
-}
-
-// weight is how likely a way is, in parts of the product of all wholes: draws that it does not come to have all their parts. So ways are added without bringing fractions to lowest terms again and again.
-func weight(shares []share, taken []come) api.Nat {
+// weight is how likely a way is, in parts of the product of all wholes: draws that it does not come to have all their parts.
+func weight(shares []weigh.Share, taken []come) api.Nat {
 	one := nat.Of(1)
 	product := one
 	for number, s := range shares {
-		factor := s.whole
+		factor := s.Whole
 		if len(taken) > 0 && taken[0].number == number {
-			factor = s.parts[taken[0].outcome]
+			factor = s.Parts[taken[0].outcome]
 			taken = taken[1:]
 		}
 		if factor != one {
@@ -79,46 +55,18 @@ func weight(shares []share, taken []come) api.Nat {
 	return product
 }
 
-// tally is what ways of each outcome weigh together.
-type tally struct {
-	values      [2*api.MaxInt + 1]api.Nat // from -MaxInt on
-	stuck, lost api.Nat
-}
-
-func (t *tally) add(o api.Outcome, weight api.Nat) {
-	sum := &t.values[o.Value+api.MaxInt]
-	switch o.Kind {
-	case api.Stuck:
-		sum = &t.stuck
-	case api.Lost:
-		sum = &t.lost
-	}
-	*sum = nat.Add(*sum, weight)
-}
-
-// answer tells what the outcomes weigh, of a whole.
-func (t *tally) answer(whole api.Nat) api.Answer {
-	a := api.Answer{Stuck: frac.Make(false, t.stuck, whole), Lost: frac.Make(false, t.lost, whole)}
-	for i, sum := range t.values {
-		if sum != "" {
-			a.Points = append(a.Points, api.Point{Value: i - api.MaxInt, P: frac.Make(false, sum, whole)})
-		}
-	}
-	return a
-}
-
 // answerOf goes all ways of a program that may be.
 func answerOf(p api.Prog) api.Answer {
-	var shares []share
+	var shares []weigh.Share
 	for _, d := range drawsOf(p) {
-		shares = append(shares, shareOf(d))
+		shares = append(shares, weigh.ShareOf(d))
 	}
-	var sums tally
+	var sums weigh.Tally
 	var t trail
 	c := countsOf(p.Defs)
 	for going := true; going; going = t.turn() {
 		w := way{counts: c, choose: t.choose}
-		sums.add(w.outcome(p.Body), weight(shares, t.taken))
+		sums.Add(w.outcome(p.Body), weight(shares, t.taken))
 	}
-	return sums.answer(weight(shares, nil))
+	return sums.Answer(weight(shares, nil))
 }

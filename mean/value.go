@@ -2,6 +2,7 @@ package mean
 
 import (
 	"augur/api"
+	"augur/reckon"
 )
 
 // value works all parts of an expression out, from the left, but where the way ends in one of them.
@@ -24,67 +25,9 @@ func (w *way) value(e api.Expr) (int, bool) {
 		d := w.counts.defs[functionOf(w.counts.defs, e.Name)]
 		return w.body(d.Body, d.Params, parts[:])
 	}
-	v, ok := joined(e.Op, parts[0], parts[1])
+	v, ok := reckon.Joined(e.Op, parts[0], parts[1])
 	if !ok {
 		w.end = api.Stuck
 	}
 	return v, ok
-}
-
-// joined is what an operator makes of two values (of one: the second is no matter), if it is a number that may be.
-func joined(op, a, b int) (int, bool) {
-	if op <= api.Ge {
-		return truth(holds(op, a, b)), true
-	}
-	if (op == api.Div || op == api.Mod) && b == 0 {
-		return 0, false
-	}
-	v := reckoned(op, a, b)
-	if v > api.MaxInt || v < -api.MaxInt {
-		return 0, false
-	}
-	return v, true
-}
-
-func truth(isTrue bool) int {
-	if isTrue {
-		return 1
-	}
-	return 0
-}
-
-func holds(op, a, b int) bool {
-	switch op {
-	case api.Or:
-		return a != 0 || b != 0
-	case api.And:
-		return a != 0 && b != 0
-	case api.Not:
-		return a == 0
-	case api.Eq:
-		return a == b
-	case api.Ne:
-		return a != b
-	case api.Lt:
-		return a < b
-	case api.Le:
-		return a <= b
-	case api.Gt:
-		return a > b
-	}
-	return a >= b
-}
-
-func reckoned(op, a, b int) int {
-	switch op {
-	case api.Add:
-		return a + b
-	case api.Sub:
-		return a - b
-	case api.Mul:
-		return a * b
-	case api.Div:
-		return a / b
-	}
-	return a % b
 }
